@@ -1,0 +1,163 @@
+// Package rules holds the sources of all layers against what the map, the ways and LANGUAGE.md ask.
+package rules
+
+import (
+	"go/ast"
+	"go/parser"
+	"go/token"
+	"path/filepath"
+	"strconv"
+	"strings"
+	"testing"
+)
+
+// layer is a package that is built, the layers that it may call, and the ways that it leans on.
+type layer struct {
+	name, calls, ways string
+}
+
+var layers = []layer{
+	{"value", "api", "closure fallthrough"},
+	{"code", "api value", "iota label fallthrough range-integer"},
+}
+
+const library = "bytes cmp container/heap errors iter maps math math/bits slices sort strconv strings unicode unicode/utf8"
+
+// sources are a package's files without its tests.
+func sources(t *testing.T, name string) (*token.FileSet, []*ast.File) {
+	t.Helper()
+	names, err := filepath.Glob(filepath.Join("..", name, "*.go"))
+	if err != nil {
+		t.Fatal(err)
+	}
+	set := token.NewFileSet()
+	var files []*ast.File
+	for _, name := range names {
+		if strings.HasSuffix(name, "_test.go") {
+			continue
+		}
+		f, err := parser.ParseFile(set, name, nil, parser.ParseComments)
+		if err != nil {
+			t.Fatal(err)
+		}
+		files = append(files, f)
+	}
+	if len(files) == 0 {
+		t.Fatalf("%s has no sources", name)
+	}
+	return set, files
+}
+
+// Of the project a layer calls those that the map gives it, of the library what LANGUAGE.md gives all.
+func TestImports(t *testing.T) {
+	for _, l := range layers {
+		allowed := map[string]bool{}
+		for _, path := range strings.Fields(library) {
+			allowed[path] = true
+		}
+		for _, name := range strings.Fields(l.calls) {
+			allowed["cordon/"+name] = true
+		}
+		_, files := sources(t, l.name)
+		for _, f := range files {
+			for _, i := range f.Imports {
+				if path, err := strconv.Unquote(i.Path.Value); err != nil || !allowed[path] {
+					t.Errorf("%s imports %s", l.name, i.Path.Value)
+				}
+			}
+		}
+	}
+}
+
+func TestForm(t *testing.T) {
+	for _, l := range layers {
+		set, files := sources(t, l.name)
+		for _, f := range files {
+			for _, d := range f.Decls {
+				switch x := d.(type) {
+				case *ast.FuncDecl:
+					if n := set.Position(x.End()).Line - set.Position(x.Pos()).Line + 1; n > 60 {
+						t.Errorf("%s.%s has %d lines", l.name, x.Name.Name, n)
+					}
+				case *ast.GenDecl:
+					if x.Tok == token.VAR {
+						t.Errorf("%v: a variable of the package", set.Position(x.Pos()))
+					}
+				}
+			}
+			ast.Inspect(f, func(n ast.Node) bool {
+				if _, ok := n.(*ast.GoStmt); ok {
+					t.Errorf("%v: a goroutine", set.Position(n.Pos()))
+				}
+				return true
+			})
+		}
+	}
+}
+
+func TestWays(t *testing.T) {
+	for _, l := range layers {
+		got := map[string]bool{}
+		_, files := sources(t, l.name)
+		for _, f := range files {
+			ast.Inspect(f, func(n ast.Node) bool {
+				got[way(n)] = true
+				return true
+			})
+		}
+		for _, want := range strings.Fields(l.ways) {
+			if !got[want] {
+				t.Errorf("%s has no %s", l.name, want)
+			}
+		}
+	}
+}
+
+// way is the word for what a piece of a source is, as far as its form alone tells it.
+func way(n ast.Node) string {
+	switch x := n.(type) {
+	case *ast.FuncLit:
+		return "closure"
+	case *ast.LabeledStmt:
+		return "label"
+	case *ast.BranchStmt:
+		return x.Tok.String()
+	case *ast.Ident:
+		return x.Name
+	case *ast.RangeStmt:
+		switch y := x.X.(type) {
+		case *ast.BasicLit:
+			return "range-integer"
+		case *ast.CallExpr:
+			if f, ok := y.Fun.(*ast.Ident); ok && f.Name == "len" {
+				return "range-integer"
+			}
+		}
+	}
+	return ""
+}
+
+// What is reckoned with two numbers is a closure that one function is handed.
+func TestReckoning(t *testing.T) {
+	_, files := sources(t, "value")
+	closures := map[string]int{}
+	for _, f := range files {
+		for _, d := range f.Decls {
+			fn, ok := d.(*ast.FuncDecl)
+			if !ok {
+				continue
+			}
+			ast.Inspect(fn, func(n ast.Node) bool {
+				if _, ok := n.(*ast.FuncLit); ok {
+					closures[fn.Name.Name]++
+				}
+				return true
+			})
+		}
+	}
+	for _, name := range []string{"Add", "Sub", "Mul", "Div", "Mod"} {
+		if closures[name] == 0 {
+			t.Errorf("%s has no closure", name)
+		}
+	}
+}
