@@ -203,16 +203,29 @@ func TestDecodeRefusesMany(t *testing.T) {
 	decodes(t, "too long, then right", tooLong+bytes(1), nil, api.ErrMany)
 }
 
-// Bytes that are no row are none of a row with too many values or too long ones: ErrForm is named first.
-func TestDecodeTellsFormFirst(t *testing.T) {
+// Of bytes that are no value, a value too long and one too many, the leftmost is told.
+func TestDecodeTellsTheLeftmost(t *testing.T) {
 	tooLong, tooMany := "\x05"+long+"\x00\x00", strings.Repeat("\x01", api.MaxCols+1)
 	for _, broken := range []string{"\x00", "\x06", "\x04\x01", "\x05a", "\x05\x00\x01"} {
-		decodes(t, "broken, then too long", broken+"\xfe"+tooLong[:3], nil, api.ErrForm)
-		decodes(t, "too long, then broken", tooLong+broken, nil, api.ErrForm)
-		decodes(t, "too many, then broken", tooMany+broken, nil, api.ErrForm)
-		decodes(t, "both, then broken", tooMany+tooLong+broken, nil, api.ErrForm)
+		decodes(t, "too long, then broken", tooLong+broken, nil, api.ErrMany)
+		decodes(t, "too long behind others, then broken", tooMany[2:]+tooLong+broken, nil, api.ErrMany)
+		decodes(t, "too many, then broken", tooMany+broken, nil, api.ErrMany)
+		decodes(t, "far too many, then broken", tooMany+tooMany+broken, nil, api.ErrMany)
+		decodes(t, "too many, too long, then broken", tooMany+tooLong+broken, nil, api.ErrMany)
+		decodes(t, "too long, too many, then broken", tooLong+tooMany+broken, nil, api.ErrMany)
+		decodes(t, "too long as the one too many, then broken", tooMany[1:]+tooLong+broken, nil, api.ErrMany)
+		decodes(t, "broken in the place of the one too many", tooMany[1:]+broken, nil, api.ErrForm)
+		decodes(t, "broken in the last place", tooMany[2:]+broken, nil, api.ErrForm)
+	}
+	for _, broken := range []string{"\x00", "\x06", "\xff", "\x05\x00\x01", "\x05" + long + "\x00\x02"} {
+		decodes(t, "broken, then too long", broken+tooLong, nil, api.ErrForm)
+		decodes(t, "broken, then too many", broken+tooMany, nil, api.ErrForm)
+		decodes(t, "broken in the place of the one too many, then too many", tooMany[1:]+broken+tooMany, nil, api.ErrForm)
 	}
 	decodes(t, "too long without an end", tooLong[:len(tooLong)-1], nil, api.ErrForm)
+	decodes(t, "far too long without an end", "\x05"+strings.Repeat(long, 9), nil, api.ErrForm)
+	decodes(t, "too long without an end as the one too many", tooMany[1:]+tooLong[:len(tooLong)-1], nil, api.ErrForm)
+	decodes(t, "too long, then too long without an end", tooLong+tooLong[:len(tooLong)-1], nil, api.ErrMany)
 }
 
 // P2.3
