@@ -19,6 +19,7 @@ type layer struct {
 var layers = []layer{
 	{"value", "api", "closure fallthrough"},
 	{"code", "api value", "iota label fallthrough range-integer"},
+	{"lattice", "api", "goto label map array copy"},
 }
 
 const library = "bytes cmp container/heap errors iter maps math math/bits slices sort strconv strings unicode unicode/utf8"
@@ -123,7 +124,19 @@ func way(n ast.Node) string {
 	case *ast.BranchStmt:
 		return x.Tok.String()
 	case *ast.Ident:
-		return x.Name
+		if x.Name == "iota" {
+			return "iota"
+		}
+	case *ast.MapType:
+		return "map"
+	case *ast.ArrayType:
+		if x.Len != nil {
+			return "array"
+		}
+	case *ast.CallExpr:
+		if f, ok := x.Fun.(*ast.Ident); ok && f.Name == "copy" {
+			return "copy"
+		}
 	case *ast.RangeStmt:
 		switch y := x.X.(type) {
 		case *ast.BasicLit:
