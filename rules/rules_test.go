@@ -20,6 +20,7 @@ var layers = []layer{
 	{"value", "api", "closure fallthrough"},
 	{"code", "api value", "iota label fallthrough range-integer"},
 	{"lattice", "api", "goto label map array copy"},
+	{"plane", "api", "complex real imag"},
 }
 
 const library = "bytes cmp container/heap errors iter maps math math/bits slices sort strconv strings unicode unicode/utf8"
@@ -134,8 +135,11 @@ func way(n ast.Node) string {
 			return "array"
 		}
 	case *ast.CallExpr:
-		if f, ok := x.Fun.(*ast.Ident); ok && f.Name == "copy" {
-			return "copy"
+		if f, ok := x.Fun.(*ast.Ident); ok {
+			switch f.Name {
+			case "copy", "complex", "real", "imag":
+				return f.Name
+			}
 		}
 	case *ast.RangeStmt:
 		switch y := x.X.(type) {
