@@ -21,6 +21,7 @@ var layers = []layer{
 	{"code", "api value", "iota label fallthrough range-integer"},
 	{"lattice", "api", "goto label map array copy"},
 	{"plane", "api", "complex real imag"},
+	{"token", "api", "goto label fallthrough closure range-integer"},
 }
 
 const library = "bytes cmp container/heap errors iter maps math math/bits slices sort strconv strings unicode unicode/utf8"
