@@ -22,6 +22,7 @@ var layers = []layer{
 	{"lattice", "api", "goto label map array copy"},
 	{"plane", "api", "complex real imag"},
 	{"token", "api", "goto label fallthrough closure range-integer"},
+	{"syntax", "api token", "generic-function closure goto label fallthrough method-value variadic"},
 }
 
 const library = "bytes cmp container/heap errors iter maps math math/bits slices sort strconv strings unicode unicode/utf8"
@@ -102,9 +103,13 @@ func TestWays(t *testing.T) {
 	for _, l := range layers {
 		got := map[string]bool{}
 		_, files := sources(t, l.name)
+		methods := methodsOf(files)
 		for _, f := range files {
 			ast.Inspect(f, func(n ast.Node) bool {
 				got[way(n)] = true
+				if handsOn(n, methods) {
+					got["method-value"] = true
+				}
 				return true
 			})
 		}
@@ -116,11 +121,46 @@ func TestWays(t *testing.T) {
 	}
 }
 
+// methodsOf are the names of the methods that files declare.
+func methodsOf(files []*ast.File) map[string]bool {
+	out := map[string]bool{}
+	for _, f := range files {
+		for _, d := range f.Decls {
+			if fn, ok := d.(*ast.FuncDecl); ok && fn.Recv != nil {
+				out[fn.Name.Name] = true
+			}
+		}
+	}
+	return out
+}
+
+// handsOn tells whether a piece of a source is a call that is handed a method as a value.
+func handsOn(n ast.Node, methods map[string]bool) bool {
+	call, ok := n.(*ast.CallExpr)
+	if !ok {
+		return false
+	}
+	for _, a := range call.Args {
+		if s, ok := a.(*ast.SelectorExpr); ok && methods[s.Sel.Name] {
+			return true
+		}
+	}
+	return false
+}
+
 // way is the word for what a piece of a source is, as far as its form alone tells it.
 func way(n ast.Node) string {
 	switch x := n.(type) {
 	case *ast.FuncLit:
 		return "closure"
+	case *ast.FuncDecl:
+		if x.Type.TypeParams != nil {
+			return "generic-function"
+		}
+	case *ast.Ellipsis:
+		if x.Elt != nil {
+			return "variadic"
+		}
 	case *ast.LabeledStmt:
 		return "label"
 	case *ast.BranchStmt:
