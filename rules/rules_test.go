@@ -23,6 +23,7 @@ var layers = []layer{
 	{"plane", "api", "complex real imag"},
 	{"token", "api", "goto label fallthrough closure range-integer"},
 	{"syntax", "api token", "generic-function closure goto label fallthrough method-value variadic"},
+	{"unparse", "api token", "generic-function closure embedding promoted fallthrough variadic array rune"},
 }
 
 const library = "bytes cmp container/heap errors iter maps math math/bits slices sort strconv strings unicode unicode/utf8"
@@ -104,11 +105,19 @@ func TestWays(t *testing.T) {
 		got := map[string]bool{}
 		_, files := sources(t, l.name)
 		methods := methodsOf(files)
-		for _, f := range files {
+		for _, f := range files { // what is embedded may stand in a later file than what calls it
 			ast.Inspect(f, func(n ast.Node) bool {
 				got[way(n)] = true
+				return true
+			})
+		}
+		for _, f := range files {
+			ast.Inspect(f, func(n ast.Node) bool {
 				if handsOn(n, methods) {
 					got["method-value"] = true
+				}
+				if got["embedding"] && callsPromoted(n, f, methods) {
+					got["promoted"] = true
 				}
 				return true
 			})
@@ -148,6 +157,28 @@ func handsOn(n ast.Node, methods map[string]bool) bool {
 	return false
 }
 
+// callsPromoted tells whether a piece of a source calls what no file declares, of something that is no import: so that an embedded part must have it.
+func callsPromoted(n ast.Node, f *ast.File, methods map[string]bool) bool {
+	call, ok := n.(*ast.CallExpr)
+	if !ok {
+		return false
+	}
+	s, ok := call.Fun.(*ast.SelectorExpr)
+	if !ok || methods[s.Sel.Name] {
+		return false
+	}
+	of, ok := s.X.(*ast.Ident)
+	if !ok {
+		return false
+	}
+	for _, i := range f.Imports {
+		if path, err := strconv.Unquote(i.Path.Value); err != nil || path[strings.LastIndex(path, "/")+1:] == of.Name {
+			return false
+		}
+	}
+	return true
+}
+
 // way is the word for what a piece of a source is, as far as its form alone tells it.
 func way(n ast.Node) string {
 	switch x := n.(type) {
@@ -160,6 +191,16 @@ func way(n ast.Node) string {
 	case *ast.Ellipsis:
 		if x.Elt != nil {
 			return "variadic"
+		}
+	case *ast.StructType:
+		for _, f := range x.Fields.List {
+			if len(f.Names) == 0 {
+				return "embedding"
+			}
+		}
+	case *ast.BasicLit:
+		if x.Kind == token.CHAR {
+			return "rune"
 		}
 	case *ast.LabeledStmt:
 		return "label"
