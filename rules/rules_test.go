@@ -24,6 +24,7 @@ var layers = []layer{
 	{"token", "api", "goto label fallthrough closure range-integer"},
 	{"syntax", "api token", "generic-function closure goto label fallthrough method-value variadic"},
 	{"unparse", "api token", "generic-function closure embedding promoted fallthrough variadic array rune"},
+	{"schema", "api lattice", "map closure fallthrough copy array"},
 }
 
 const library = "bytes cmp container/heap errors iter maps math math/bits slices sort strconv strings unicode unicode/utf8"

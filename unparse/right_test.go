@@ -106,7 +106,8 @@ func changes(v reflect.Value) []reflect.Value {
 func mutants(x any, test func(y any, why string)) {
 	v := copied(reflect.ValueOf(x))
 	for _, s := range spots(v, "") {
-		old := copied(s.v)
+		old := reflect.New(s.v.Type()).Elem()
+		old.Set(s.v) // the list itself, not a copy: places in it are still to come
 		for _, c := range changes(s.v) {
 			s.v.Set(c)
 			test(v.Interface(), s.path)
