@@ -25,6 +25,7 @@ var layers = []layer{
 	{"syntax", "api token", "generic-function closure goto label fallthrough method-value variadic"},
 	{"unparse", "api token", "generic-function closure embedding promoted fallthrough variadic array rune"},
 	{"schema", "api lattice", "map closure fallthrough copy array"},
+	{"types", "api unparse schema", "iota fallthrough closure copy"},
 }
 
 const library = "bytes cmp container/heap errors iter maps math math/bits slices sort strconv strings unicode unicode/utf8"
@@ -218,10 +219,15 @@ func way(n ast.Node) string {
 			return "array"
 		}
 	case *ast.CallExpr:
-		if f, ok := x.Fun.(*ast.Ident); ok {
+		switch f := x.Fun.(type) {
+		case *ast.Ident:
 			switch f.Name {
 			case "copy", "complex", "real", "imag":
 				return f.Name
+			}
+		case *ast.SelectorExpr:
+			if of, ok := f.X.(*ast.Ident); ok && of.Name == "slices" && f.Sel.Name == "Clone" {
+				return "copy"
 			}
 		}
 	case *ast.RangeStmt:
