@@ -26,6 +26,7 @@ var layers = []layer{
 	{"unparse", "api token", "generic-function closure embedding promoted fallthrough variadic array rune"},
 	{"schema", "api lattice", "map closure fallthrough copy array"},
 	{"types", "api unparse schema", "iota fallthrough closure copy"},
+	{"algebra", "api schema types", "goto label closure fallthrough copy"},
 }
 
 const library = "bytes cmp container/heap errors iter maps math math/bits slices sort strconv strings unicode unicode/utf8"
