@@ -27,6 +27,7 @@ var layers = []layer{
 	{"schema", "api lattice", "map closure fallthrough copy array"},
 	{"types", "api unparse schema", "iota fallthrough closure copy"},
 	{"algebra", "api schema types", "goto label closure fallthrough copy"},
+	{"rows", "api value code", "map closure fallthrough range-integer"},
 }
 
 const library = "bytes cmp container/heap errors iter maps math math/bits slices sort strconv strings unicode unicode/utf8"
@@ -236,7 +237,7 @@ func way(n ast.Node) string {
 		case *ast.BasicLit:
 			return "range-integer"
 		case *ast.CallExpr:
-			if f, ok := y.Fun.(*ast.Ident); ok && f.Name == "len" {
+			if f, ok := y.Fun.(*ast.Ident); ok && (f.Name == "len" || f.Name == "max") {
 				return "range-integer"
 			}
 		}
