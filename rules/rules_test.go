@@ -28,6 +28,7 @@ var layers = []layer{
 	{"types", "api unparse schema", "iota fallthrough closure copy"},
 	{"algebra", "api schema types", "goto label closure fallthrough copy"},
 	{"rows", "api value code", "map closure fallthrough range-integer"},
+	{"store", "api value code schema", "map fallthrough closure copy"},
 }
 
 const library = "bytes cmp container/heap errors iter maps math math/bits slices sort strconv strings unicode unicode/utf8"
