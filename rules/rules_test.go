@@ -29,6 +29,7 @@ var layers = []layer{
 	{"algebra", "api schema types", "goto label closure fallthrough copy"},
 	{"rows", "api value code", "map closure fallthrough range-integer"},
 	{"store", "api value code schema", "map fallthrough closure copy"},
+	{"engine", "api value rows store", "fallthrough array copy three-index"},
 }
 
 const library = "bytes cmp container/heap errors iter maps math math/bits slices sort strconv strings unicode unicode/utf8"
@@ -220,6 +221,10 @@ func way(n ast.Node) string {
 	case *ast.ArrayType:
 		if x.Len != nil {
 			return "array"
+		}
+	case *ast.SliceExpr:
+		if x.Slice3 {
+			return "three-index"
 		}
 	case *ast.CallExpr:
 		switch f := x.Fun.(type) {
