@@ -30,6 +30,7 @@ var layers = []layer{
 	{"rows", "api value code", "map closure fallthrough range-integer"},
 	{"store", "api value code schema", "map fallthrough closure copy"},
 	{"engine", "api value rows store", "fallthrough array copy three-index"},
+	{"change", "api value store engine", "closure copy function-field"},
 }
 
 const library = "bytes cmp container/heap errors iter maps math math/bits slices sort strconv strings unicode unicode/utf8"
@@ -202,6 +203,9 @@ func way(n ast.Node) string {
 		for _, f := range x.Fields.List {
 			if len(f.Names) == 0 {
 				return "embedding"
+			}
+			if _, ok := f.Type.(*ast.FuncType); ok {
+				return "function-field"
 			}
 		}
 	case *ast.BasicLit:
