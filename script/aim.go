@@ -10,6 +10,7 @@ import (
 // aim is what a statement's names are found to mean.
 type aim struct {
 	n      int         // the place of its table, procedure or channel
+	names  []string    // its variables' names; columns are told by their places, as cols
 	cols   []int       // the places of an update's columns
 	types  []int       // with what its expressions, or its query's columns, must be one
 	places []api.Place // what its expressions can name, beside variables
@@ -35,7 +36,7 @@ func (m maker) aim(s api.Stmt) (aim, api.Errno) {
 
 func (m maker) variables(names []string) (aim, api.Errno) {
 	places, err := found(m.vars, varName, names...)
-	return aim{types: each(places, func(at int) int { return m.vars[at].Type })}, err
+	return aim{names: slices.Clone(names), types: each(places, func(at int) int { return m.vars[at].Type })}, err
 }
 
 // channel asks for TyNull, as that is one with all types.

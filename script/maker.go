@@ -67,7 +67,7 @@ func (m maker) head(s api.Stmt) (api.Op, api.Errno) {
 	if err != api.OK {
 		return api.Op{}, err
 	}
-	op := api.Op{Kind: s.Kind, At: s.At, N: a.n, Names: slices.Clone(s.Names), Cols: a.cols}
+	op := api.Op{Kind: s.Kind, At: s.At, N: a.n, Names: a.names, Cols: a.cols}
 	switch s.Kind {
 	case api.StInput:
 		err = fit(a.types, api.TyInt) // what comes in is a number

@@ -240,9 +240,11 @@ func placesOf(r api.Relation) []api.Place {
 func (w worldOf) ops(vars []api.Var, list []api.Stmt) []api.Op {
 	return numbered(len(list), func(i int) api.Op {
 		s := list[i]
-		out := api.Op{Kind: s.Kind, At: s.At, Names: s.Names, Body: w.ops(vars, s.Body), Else: w.ops(vars, s.Else)}
+		out := api.Op{Kind: s.Kind, At: s.At, Body: w.ops(vars, s.Body), Else: w.ops(vars, s.Else)}
 		var cols []api.Place
 		switch s.Kind {
+		case api.StSet, api.StFor, api.StInput:
+			out.Names = s.Names
 		case api.StPrint:
 			out.N = w.channel(s.Table)
 		case api.StCall:

@@ -1,6 +1,8 @@
 package script_test
 
 import (
+	"fmt"
+	"reflect"
 	"strings"
 	"testing"
 
@@ -60,14 +62,14 @@ func TestOps(t *testing.T) {
 		"insert into w select d as d from t;":         {Kind: api.StInsertQ, Plan: plan(t, "select d as d from t")},
 		"insert into u " + query + ";":                {Kind: api.StInsertQ, N: 3, Plan: plan(t, query)},
 		"insert into k select x as p, y as p from u;": {Kind: api.StInsertQ, N: 5, Plan: plan(t, "select x as p, y as p from u")},
-		"update w set v = not v;":                     {Kind: api.StUpdate, Names: one("v"), Cols: one(0), E: nodes(t, "w", "not v")},
+		"update w set v = not v;":                     {Kind: api.StUpdate, Cols: one(0), E: nodes(t, "w", "not v")},
 		"update t set d = b > a, b = t.a where t.d;": {
-			Kind: api.StUpdate, N: 1, Names: one("d", "b"), Cols: one(3, 1), E: nodes(t, "t", "b > a", "a"), Where: nodes(t, "t", "d"),
+			Kind: api.StUpdate, N: 1, Cols: one(3, 1), E: nodes(t, "t", "b > a", "a"), Where: nodes(t, "t", "d"),
 		},
 		"update h set n = k + :i, s = null where n is null;": {
-			Kind: api.StUpdate, N: 2, Names: one("n", "s"), Cols: one(3, 2), E: nodes(t, "h", "k + :i", "null"), Where: nodes(t, "h", "n is null"),
+			Kind: api.StUpdate, N: 2, Cols: one(3, 2), E: nodes(t, "h", "k + :i", "null"), Where: nodes(t, "h", "n is null"),
 		},
-		"update q set z = 'a', a = b;":  {Kind: api.StUpdate, N: 4, Names: one("z", "a"), Cols: one(2, 0), E: nodes(t, "q", "'a'", "b")},
+		"update q set z = 'a', a = b;":  {Kind: api.StUpdate, N: 4, Cols: one(2, 0), E: nodes(t, "q", "'a'", "b")},
 		"delete from w;":                {Kind: api.StDelete},
 		"delete from k;":                {Kind: api.StDelete, N: 5},
 		"delete from k where r = :s;":   {Kind: api.StDelete, N: 5, Where: nodes(t, "k", "r = :s")},
@@ -84,6 +86,22 @@ func TestOps(t *testing.T) {
 	} {
 		check(t, text, opOf(t, text), want)
 	}
+}
+
+// An update names columns, of which it has the places, and no variables: also in blocks and in procedures, and where a variable has a column's name.
+func TestUpdatesNameNoVariables(t *testing.T) {
+	p := compiles(t, "var b int; proc p(d bool) { var b int; set b = 1; update t set d = :d, b = :b; } "+
+		"input b; if true { update t set b = :b; } else { while false { update t set c = 'x', b = a; } } "+
+		"for b in select a as x from t { try { update w set v = null; } catch { update h set s = null, n = :b where k > 0; } }", "OK")
+	var told []string
+	for _, code := range p.Procs {
+		walked(reflect.ValueOf(code), func(v reflect.Value) {
+			if op, is := v.Interface().(api.Op); is && len(op.Names)+len(op.Cols) > 0 {
+				told = append(told, fmt.Sprintf("%s %v %v", kindNames[op.Kind], op.Names, op.Cols))
+			}
+		})
+	}
+	check(t, "what they name", told, strings.Split("set [b] []; update [] [3 1]; input [b] []; update [] [1]; update [] [2 1]; for [b] []; update [] [0]; update [] [2 3]", "; "))
 }
 
 const swapped = "select c as y, a as x from t visible"
