@@ -32,6 +32,7 @@ var layers = []layer{
 	{"engine", "api value rows store", "fallthrough array copy three-index"},
 	{"change", "api value store engine", "closure copy function-field"},
 	{"script", "api unparse schema types algebra change", "embedding promoted fallthrough map variadic closure"},
+	{"interp", "api value store engine change", "map fallthrough"},
 }
 
 const library = "bytes cmp container/heap errors iter maps math math/bits slices sort strconv strings unicode unicode/utf8"
