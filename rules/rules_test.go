@@ -33,6 +33,7 @@ var layers = []layer{
 	{"change", "api value store engine", "closure copy function-field"},
 	{"script", "api unparse schema types algebra change", "embedding promoted fallthrough map variadic closure"},
 	{"interp", "api value store engine change", "map fallthrough"},
+	{"labels", "api lattice schema", "variadic fallthrough array copy"},
 }
 
 const library = "bytes cmp container/heap errors iter maps math math/bits slices sort strconv strings unicode unicode/utf8"
