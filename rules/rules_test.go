@@ -34,6 +34,7 @@ var layers = []layer{
 	{"script", "api unparse schema types algebra change", "embedding promoted fallthrough map variadic closure"},
 	{"interp", "api value store engine change", "map fallthrough"},
 	{"labels", "api lattice schema", "variadic fallthrough array copy"},
+	{"flow", "api lattice schema labels", "goto label fallthrough map closure variadic copy"},
 }
 
 const library = "bytes cmp container/heap errors iter maps math math/bits slices sort strconv strings unicode unicode/utf8"
