@@ -35,6 +35,7 @@ var layers = []layer{
 	{"interp", "api value store engine change", "map fallthrough"},
 	{"labels", "api lattice schema", "variadic fallthrough array copy"},
 	{"flow", "api lattice schema labels", "goto label fallthrough map closure variadic copy"},
+	{"derive", "api lattice schema labels flow", "fallthrough variadic closure embedding promoted"},
 }
 
 const library = "bytes cmp container/heap errors iter maps math math/bits slices sort strconv strings unicode unicode/utf8"
