@@ -37,6 +37,7 @@ var layers = []layer{
 	{"flow", "api lattice schema labels", "goto label fallthrough map closure variadic copy"},
 	{"derive", "api lattice schema labels flow", "fallthrough variadic closure embedding promoted"},
 	{"erase", "api schema store labels", "closure"}, // what both the map and the chapter give it
+	{"weigh", "api plane", "complex imag fallthrough"},
 }
 
 const library = "bytes cmp container/heap errors iter maps math math/bits slices sort strconv strings unicode unicode/utf8"
