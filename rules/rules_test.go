@@ -38,6 +38,7 @@ var layers = []layer{
 	{"derive", "api lattice schema labels flow", "fallthrough variadic closure embedding promoted"},
 	{"erase", "api schema store labels", "closure"}, // what both the map and the chapter give it
 	{"weigh", "api plane", "complex imag fallthrough"},
+	{"audit", "api schema store engine labels", "closure variadic interface interface-call"}, // likewise
 }
 
 const library = "bytes cmp container/heap errors iter maps math math/bits slices sort strconv strings unicode unicode/utf8"
@@ -118,7 +119,7 @@ func TestWays(t *testing.T) {
 	for _, l := range layers {
 		got := map[string]bool{}
 		_, files := sources(t, l.name)
-		methods := methodsOf(files)
+		methods, asked := methodsOf(files), askedOf(files)
 		for _, f := range files { // what is embedded may stand in a later file than what calls it
 			ast.Inspect(f, func(n ast.Node) bool {
 				got[way(n)] = true
@@ -132,6 +133,9 @@ func TestWays(t *testing.T) {
 				}
 				if got["embedding"] && callsPromoted(n, f, methods) {
 					got["promoted"] = true
+				}
+				if callsAsked(n, asked) {
+					got["interface-call"] = true
 				}
 				return true
 			})
@@ -155,6 +159,36 @@ func methodsOf(files []*ast.File) map[string]bool {
 		}
 	}
 	return out
+}
+
+// askedOf are the names of the methods that interfaces of files ask for, but those that files declare themselves.
+func askedOf(files []*ast.File) map[string]bool {
+	out, own := map[string]bool{}, methodsOf(files)
+	for _, f := range files {
+		ast.Inspect(f, func(n ast.Node) bool {
+			x, ok := n.(*ast.InterfaceType)
+			if !ok {
+				return true
+			}
+			for _, m := range x.Methods.List {
+				for _, name := range m.Names {
+					out[name.Name] = !own[name.Name]
+				}
+			}
+			return true
+		})
+	}
+	return out
+}
+
+// callsAsked tells whether a piece of a source calls a method that an interface asks for.
+func callsAsked(n ast.Node, asked map[string]bool) bool {
+	call, ok := n.(*ast.CallExpr)
+	if !ok {
+		return false
+	}
+	s, ok := call.Fun.(*ast.SelectorExpr)
+	return ok && asked[s.Sel.Name]
 }
 
 // handsOn tells whether a piece of a source is a call that is handed a method as a value.
@@ -205,6 +239,10 @@ func way(n ast.Node) string {
 	case *ast.Ellipsis:
 		if x.Elt != nil {
 			return "variadic"
+		}
+	case *ast.InterfaceType:
+		if len(x.Methods.List) > 0 {
+			return "interface"
 		}
 	case *ast.StructType:
 		for _, f := range x.Fields.List {
