@@ -39,6 +39,7 @@ var layers = []layer{
 	{"erase", "api schema store labels", "closure"}, // what both the map and the chapter give it
 	{"weigh", "api plane", "complex imag fallthrough"},
 	{"audit", "api schema store engine labels", "closure variadic interface interface-call"}, // likewise
+	{"report", "api value token", "array range-integer"},
 }
 
 const library = "bytes cmp container/heap errors iter maps math math/bits slices sort strconv strings unicode unicode/utf8"
