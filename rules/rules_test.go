@@ -40,6 +40,7 @@ var layers = []layer{
 	{"weigh", "api plane", "complex imag fallthrough"},
 	{"audit", "api schema store engine labels", "closure variadic interface interface-call"}, // likewise
 	{"report", "api value token", "array range-integer"},
+	{"app", "api syntax schema store script interp flow", "embedding promoted"},
 }
 
 const library = "bytes cmp container/heap errors iter maps math math/bits slices sort strconv strings unicode unicode/utf8"
@@ -120,7 +121,7 @@ func TestWays(t *testing.T) {
 	for _, l := range layers {
 		got := map[string]bool{}
 		_, files := sources(t, l.name)
-		methods, asked := methodsOf(files), askedOf(files)
+		methods, asked, parts := methodsOf(files), askedOf(files), partsOf(files)
 		for _, f := range files { // what is embedded may stand in a later file than what calls it
 			ast.Inspect(f, func(n ast.Node) bool {
 				got[way(n)] = true
@@ -132,7 +133,7 @@ func TestWays(t *testing.T) {
 				if handsOn(n, methods) {
 					got["method-value"] = true
 				}
-				if got["embedding"] && callsPromoted(n, f, methods) {
+				if got["embedding"] && callsPromoted(n, f, methods) || callsPart(n, parts) {
 					got["promoted"] = true
 				}
 				if callsAsked(n, asked) {
@@ -226,6 +227,81 @@ func callsPromoted(n ast.Node, f *ast.File, methods map[string]bool) bool {
 		}
 	}
 	return true
+}
+
+// part is what a type of the package has: the methods that are declared of it, and the names of what it embeds.
+type part struct {
+	methods map[string]bool
+	embeds  []string
+}
+
+// partsOf are the types of files that have methods, or embed something, by name.
+func partsOf(files []*ast.File) map[string]part {
+	out := map[string]part{}
+	for _, f := range files {
+		ast.Inspect(f, func(n ast.Node) bool {
+			switch x := n.(type) {
+			case *ast.TypeSpec:
+				if s, ok := x.Type.(*ast.StructType); ok {
+					p := out[x.Name.Name]
+					for _, field := range s.Fields.List {
+						if len(field.Names) == 0 {
+							p.embeds = append(p.embeds, typeName(field.Type))
+						}
+					}
+					out[x.Name.Name] = p
+				}
+			case *ast.FuncDecl:
+				if x.Recv != nil {
+					name := typeName(x.Recv.List[0].Type)
+					p := out[name]
+					if p.methods == nil {
+						p.methods = map[string]bool{}
+					}
+					p.methods[x.Name.Name] = true
+					out[name] = p
+				}
+			}
+			return true
+		})
+	}
+	return out
+}
+
+// typeName is the name of a type of the package, or of one that it points to.
+func typeName(x ast.Expr) string {
+	if star, ok := x.(*ast.StarExpr); ok {
+		x = star.X
+	}
+	if id, ok := x.(*ast.Ident); ok {
+		return id.Name
+	}
+	return ""
+}
+
+// callsPart tells whether a piece of a source is a method that calls, of what it is of, one that is declared of an embedded part alone.
+func callsPart(n ast.Node, parts map[string]part) bool {
+	fn, ok := n.(*ast.FuncDecl)
+	if !ok || fn.Recv == nil || len(fn.Recv.List[0].Names) == 0 {
+		return false
+	}
+	own, of := fn.Recv.List[0].Names[0].Name, parts[typeName(fn.Recv.List[0].Type)]
+	found := false
+	ast.Inspect(fn, func(n ast.Node) bool {
+		call, ok := n.(*ast.CallExpr)
+		if !ok {
+			return true
+		}
+		s, ok := call.Fun.(*ast.SelectorExpr)
+		if !ok || typeName(s.X) != own || of.methods[s.Sel.Name] {
+			return true
+		}
+		for _, name := range of.embeds {
+			found = found || parts[name].methods[s.Sel.Name]
+		}
+		return true
+	})
+	return found
 }
 
 // way is the word for what a piece of a source is, as far as its form alone tells it.
