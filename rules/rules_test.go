@@ -41,6 +41,7 @@ var layers = []layer{
 	{"audit", "api schema store engine labels", "closure variadic interface interface-call"}, // likewise
 	{"report", "api value token", "array range-integer"},
 	{"app", "api syntax schema store script interp flow", "embedding promoted"},
+	{"tool", "api syntax algebra store audit report app", "embedding promoted fallthrough closure rune"}, // likewise
 }
 
 const library = "bytes cmp container/heap errors iter maps math math/bits slices sort strconv strings unicode unicode/utf8"
